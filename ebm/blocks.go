@@ -108,7 +108,7 @@ func (m *Manager) erase(n int) error {
 	return failed("erase", n, m.chip.Erase(n))
 }
 
-// read: a page of what stands in a block. It was written: if it can't be read, others changed the chip, and what is kept here is good for nothing.
+// read: a page that is to be copied. It was written: if it can't be read, others changed the chip, and what is kept here is good for nothing. (EIO would say that the block failed to which it is copied.)
 func (m *Manager) read(n, i int) ([]byte, error) {
 	data, errno := m.chip.Read(n, firstPage+i)
 	if errno != api.OK {

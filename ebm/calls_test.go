@@ -280,9 +280,16 @@ func TestOthers(t *testing.T) {
 	m.Write(0, []byte("a"))
 	arm(t, m.Chip(), api.Fault{At: 1, Kind: api.Fail})
 	m.Chip().Erase(0)
-	_, errno := m.Read(0, 0)
-	is(t, "Read of what others spoilt", errno, api.ENXIO)
-	is(t, "any call then", m.Write(5, nil), api.ENXIO)
+	m.Write(5, []byte("b"))
+	for range 2 {
+		data, errno := m.Read(0, 0)
+		is(t, "Read of what others spoilt", errno, api.EIO)
+		is(t, "Read of what others spoilt", len(data), 0)
+	}
+	is(t, "Write elsewhere", m.Write(5, []byte("c")), api.OK)
+	data, errno := m.Read(5, 1)
+	is(t, "Read elsewhere", errno, api.OK)
+	is(t, "Read elsewhere", string(bytes.TrimRight(data, "\xff")), "c")
 	m = formatted(t, small)
 	m.Write(0, []byte("a"))
 	m.blocks[15].Count = 30
