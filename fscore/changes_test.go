@@ -137,6 +137,34 @@ func TestAllNumbers(t *testing.T) {
 	is(t, "Create", errno, api.ENOSPC)
 }
 
+// TestGreatestNumber: the inode MaxInodes is one like others.
+func TestGreatestNumber(t *testing.T) {
+	f := made(t, middle)
+	const last = api.MaxInodes
+	top, _ := node.Inode(api.Inode{Ino: 1, Kind: api.Dir, Mode: 493, Links: 4})
+	name, _ := node.Entry(1, api.Entry{Name: "z", Ino: last, Kind: api.Dir})
+	other, _ := node.Entry(1, api.Entry{Name: "y", Ino: last - 1, Kind: api.Dir})
+	dir, _ := node.Inode(api.Inode{Ino: last, Kind: api.Dir, Links: 2})
+	before, _ := node.Inode(api.Inode{Ino: last - 1, Kind: api.Dir, Links: 2})
+	is(t, "Put", f.Cache().Put([]api.Node{top, name, other, dir, before}), api.OK)
+	answers(t, f, []answered{
+		{stat(last), "{4096 2 0 0 0 2 0} 0"},
+		{stat(last + 1), "{0 0 0 0 0 0 0} 2"},
+		{op{call: "rename", ino: 1, name: "z", to: last, other: "x"}, "{0 false} 22"},
+		{op{call: "rename", ino: 1, name: "y", to: last, other: "y"}, "{0 false} 0"},
+		{op{call: "rename", ino: 1, name: "z", to: last - 1, other: "x"}, "{0 false} 22"},
+		{op{call: "create", ino: last, name: "a", i: file(0)}, "2 0"},
+		{op{call: "rename", ino: last, name: "y", to: 1, other: "y"}, "{0 false} 0"},
+		{op{call: "rename", ino: 1, name: "z", to: last - 1, other: "x"}, "{0 false} 0"},
+		{op{call: "unlink", ino: last, name: "a"}, "{2 true} 0"},
+		{op{call: "rmdir", ino: last - 1, name: "x"}, "{4096 true} 0"},
+		{op{call: "purge", ino: last}, "- 0"},
+		{op{call: "purge", ino: last + 1}, "- 22"},
+		{op{call: "orphans"}, "[2] 0"},
+		{stat(last), "{0 0 0 0 0 0 0} 2"},
+	})
+}
+
 // TestLinks: MaxLinks of a Dir and of a File, and what makes room for one.
 func TestLinks(t *testing.T) {
 	f := furnished(t)
